@@ -1,0 +1,82 @@
+package sample_test
+
+import (
+	"math/rand"
+	"testing"
+
+	"payoff/api"
+	"payoff/check"
+	"payoff/sample"
+)
+
+// kinds counts what deals are made of.
+type kinds struct {
+	contracts, operators, ranges map[int]int
+}
+
+func (k kinds) expr(e api.Expr) {
+	k.operators[e.Op]++
+	for _, kid := range e.Kids {
+		k.expr(kid)
+	}
+}
+
+func (k kinds) con(c api.Con) {
+	k.contracts[c.Kind]++
+	k.ranges[c.Range.Kind]++
+	for _, e := range c.Exprs {
+		k.expr(e)
+	}
+	for _, kid := range c.Kids {
+		k.con(kid)
+	}
+}
+
+func TestDealsAreOfAllKinds(t *testing.T) {
+	k := kinds{map[int]int{}, map[int]int{}, map[int]int{}}
+	chance := rand.New(rand.NewSource(1))
+	for range 2000 {
+		d := sample.Deal(chance.Intn)
+		m, e := check.Measure(d)
+		if e != api.OK || check.Within(m) != api.OK || m.Actions == 0 {
+			t.Fatalf("%+v: %+v, %d", d, m, e)
+		}
+		k.con(d.Body)
+		for _, def := range d.Defs {
+			k.expr(def.Body)
+		}
+	}
+	for kind := api.CZero; kind <= api.CWhen; kind++ {
+		if k.contracts[kind] < 100 {
+			t.Errorf("contracts of the kind %d: %d", kind, k.contracts[kind])
+		}
+	}
+	for op := api.XNum; op <= api.XCall; op++ {
+		if k.operators[op] < 100 {
+			t.Errorf("operators %d: %d", op, k.operators[op])
+		}
+	}
+	if k.ranges[api.RangeDays] < 100 || k.ranges[api.RangeDates] < 100 {
+		t.Errorf("ranges: %v", k.ranges)
+	}
+}
+
+// Whatever chance tells, an answer comes.
+func TestChanceThatIsNone(t *testing.T) {
+	for _, chance := range []sample.Chance{func(int) int { return 0 }, func(n int) int { return n - 1 }} {
+		d := sample.Deal(chance)
+		if m, e := check.Measure(d); e != api.OK || m.Actions == 0 {
+			t.Errorf("%+v: %+v, %d", d, m, e)
+		}
+		sample.Rows(chance, 3, 2)
+	}
+}
+
+func TestPaying(t *testing.T) {
+	pay := api.Con{Kind: api.CPay, Cur: "EUR"}
+	both := api.Con{Kind: api.CAnd, Kids: []api.Con{pay, {Kind: api.CGive, Kids: []api.Con{pay}}}}
+	other := sample.Paying(both, "USD")
+	if other.Kids[0].Cur != "USD" || other.Kids[1].Kids[0].Cur != "USD" || both.Kids[0].Cur != "EUR" || both.Kids[1].Kids[0].Cur != "EUR" {
+		t.Errorf("%+v of %+v", other, both)
+	}
+}
