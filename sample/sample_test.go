@@ -6,6 +6,7 @@ import (
 
 	"payoff/api"
 	"payoff/check"
+	"payoff/legs"
 	"payoff/sample"
 )
 
@@ -69,6 +70,63 @@ func TestChanceThatIsNone(t *testing.T) {
 			t.Errorf("%+v: %+v, %d", d, m, e)
 		}
 		sample.Rows(chance, 3, 2)
+		if _, e := legs.Play(sample.Actions(chance, 2, 2, 3), 2, nil); e != api.OK {
+			t.Errorf("Actions: %d", e)
+		}
+	}
+}
+
+func (k kinds) leg(x api.X) {
+	k.operators[x.Op]++
+	for _, kid := range x.Kids {
+		k.leg(kid)
+	}
+}
+
+func TestActionsAreOfAllKinds(t *testing.T) {
+	k := kinds{operators: map[int]int{}}
+	acts, steps := map[int]int{}, map[int]int{}
+	chance := rand.New(rand.NewSource(2))
+	for range 2000 {
+		actions := sample.Actions(chance.Intn, 2, 2, 5)
+		if _, e := legs.Play(actions, 2, nil); e != api.OK || len(actions) > 0 && actions[len(actions)-1].Day > 5 {
+			t.Fatalf("%+v: %d", actions, e)
+		}
+		for _, a := range actions {
+			acts[a.Kind]++
+			k.leg(a.E)
+			for _, s := range a.Steps {
+				steps[s.Kind]++
+				k.leg(s.E)
+			}
+		}
+	}
+	for op := api.XNum; op <= api.XCell; op++ {
+		if op != api.XName && op != api.XDay && op != api.XDate && op != api.XThird && op != api.XCall && k.operators[op] < 100 {
+			t.Errorf("operators %d: %d", op, k.operators[op])
+		}
+	}
+	for _, kind := range []int{api.StepTest, api.StepTimes, api.StepGive} {
+		if steps[kind] < 100 {
+			t.Errorf("steps of the kind %d: %d", kind, steps[kind])
+		}
+	}
+	if acts[api.ActFlow] < 100 || acts[api.ActSet] < 100 {
+		t.Errorf("actions: %v", acts)
+	}
+}
+
+// What needs an observable or an accumulator is not made where there is none.
+func TestActionsOfLittle(t *testing.T) {
+	chance := rand.New(rand.NewSource(3))
+	for range 500 {
+		for _, a := range sample.Actions(chance.Intn, 0, 0, 0) {
+			k := kinds{operators: map[int]int{}}
+			k.leg(a.E)
+			if a.Kind != api.ActFlow || a.Day != 0 || k.operators[api.XObs]+k.operators[api.XCell] > 0 {
+				t.Fatalf("%+v", a)
+			}
+		}
 	}
 }
 
