@@ -6,6 +6,7 @@ import (
 
 	"payoff/api"
 	"payoff/check"
+	"payoff/image"
 	"payoff/legs"
 	"payoff/sample"
 )
@@ -73,6 +74,9 @@ func TestChanceThatIsNone(t *testing.T) {
 		if _, e := legs.Play(sample.Actions(chance, 2, 2, 3), 2, nil); e != api.OK {
 			t.Errorf("Actions: %d", e)
 		}
+		if p := sample.Program(chance); image.Canon(p) != api.OK {
+			t.Errorf("Program: %+v", p)
+		}
 	}
 }
 
@@ -136,5 +140,32 @@ func TestPaying(t *testing.T) {
 	other := sample.Paying(both, "USD")
 	if other.Kids[0].Cur != "USD" || other.Kids[1].Kids[0].Cur != "USD" || both.Kids[0].Cur != "EUR" || both.Kids[1].Kids[0].Cur != "EUR" {
 		t.Errorf("%+v of %+v", other, both)
+	}
+}
+
+func TestProgramsAreOfAllKinds(t *testing.T) {
+	ops, lists := map[int]int{}, map[int]int{}
+	chance := rand.New(rand.NewSource(5))
+	for range 2000 {
+		p := sample.Program(chance.Intn)
+		if e := image.Canon(p); e != api.OK {
+			t.Fatalf("%+v: %d", p, e)
+		}
+		lists[len(p.Days)]++
+		for _, s := range p.Days {
+			for _, i := range s.Code {
+				ops[i.Op]++
+			}
+		}
+	}
+	for op := api.OpEnd; op <= api.OpFlow; op++ {
+		if ops[op] < 100 {
+			t.Errorf("instructions %d: %d", op, ops[op])
+		}
+	}
+	for days := range 6 {
+		if lists[days] < 50 {
+			t.Errorf("programs of %d days: %d", days, lists[days])
+		}
 	}
 }
