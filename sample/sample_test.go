@@ -9,6 +9,7 @@ import (
 	"payoff/image"
 	"payoff/legs"
 	"payoff/sample"
+	"payoff/verify"
 )
 
 // kinds counts what deals are made of.
@@ -76,6 +77,9 @@ func TestChanceThatIsNone(t *testing.T) {
 		}
 		if p := sample.Program(chance); image.Canon(p) != api.OK {
 			t.Errorf("Program: %+v", p)
+		}
+		if _, _, _, e := verify.Verify(sample.Sound(chance)); e != api.OK {
+			t.Errorf("Sound: %d", e)
 		}
 	}
 }
@@ -166,6 +170,36 @@ func TestProgramsAreOfAllKinds(t *testing.T) {
 	for days := range 6 {
 		if lists[days] < 50 {
 			t.Errorf("programs of %d days: %d", days, lists[days])
+		}
+	}
+}
+
+func TestSoundProgramsAreOfAllKinds(t *testing.T) {
+	ops, lists, stacks, backs := map[int]int{}, map[int]int{}, map[int]int{}, map[int]int{}
+	chance := rand.New(rand.NewSource(6))
+	for range 4000 {
+		p := sample.Sound(chance.Intn)
+		proof, segment, place, e := verify.Verify(p)
+		if e != api.OK {
+			t.Fatalf("%+v: %d, %d, %d", p, segment, place, e)
+		}
+		lists[len(p.Days)]++
+		stacks[p.Stack]++
+		backs[proof.Back]++
+		for _, s := range p.Days {
+			for _, i := range s.Code {
+				ops[i.Op]++
+			}
+		}
+	}
+	for op := api.OpEnd; op <= api.OpFlow; op++ {
+		if ops[op] < 100 {
+			t.Errorf("instructions %d: %d", op, ops[op])
+		}
+	}
+	for n := range 6 {
+		if lists[n] < 50 || stacks[n] < 50 || backs[n] < 50 {
+			t.Errorf("programs of %d days: %d; with stacks so high: %d; that look so far back: %d", n, lists[n], stacks[n], backs[n])
 		}
 	}
 }
