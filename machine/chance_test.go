@@ -1,9 +1,7 @@
 package machine_test
 
 import (
-	"math"
 	"math/rand"
-	"slices"
 	"testing"
 
 	"payoff/api"
@@ -91,39 +89,13 @@ func TestRunsByChance(t *testing.T) {
 	faults.want(t, 200)
 }
 
-// stateOf: a state of a program by chance, which no run need come to.
-func stateOf(chance *rand.Rand, p api.Program) api.State {
-	proof, _, _, _ := verify.Verify(p)
-	s := api.State{Today: chance.Intn(p.Horizon + 2), Cells: make([]int, p.Cells)}
-	most, last := 0, false
-	for _, segment := range p.Days {
-		if segment.Day < s.Today {
-			most += len(segment.Code)
-		}
-		last = last || segment.Day == s.Today-1
-	}
-	s.Steps = []int{0, most, chance.Intn(most + 1)}[chance.Intn(3)]
-	if s.Today > 0 {
-		for n := range s.Cells {
-			s.Cells[n] = []int{0, chance.Intn(19) - 9, math.MaxInt, math.MinInt}[chance.Intn(4)]
-		}
-	}
-	for _, row := range sample.Rows(chance.Intn, min(s.Today, proof.Back), len(p.Names)) {
-		s.Past = append(s.Past, plainFit(row, len(p.Names)))
-	}
-	if last && chance.Intn(4) == 0 {
-		s.Fault, s.Day = api.Fault(1+chance.Intn(3)), s.Today-1
-	}
-	return s
-}
-
 // P1502, P1506, P1507: states by chance are taken, and what is resumed goes on by the plain reading, in bounds.
 func TestStatesByChance(t *testing.T) {
 	t.Parallel()
 	chance := rand.New(rand.NewSource(153))
 	for range 4000 {
 		p := sample.Sound(chance.Intn)
-		s := stateOf(chance, p)
+		s := sample.State(chance.Intn, p)
 		if !plainIsState(p, s) {
 			t.Fatalf("%+v is no state of:\n%s", s, shown(p))
 		}
@@ -141,55 +113,6 @@ func TestStatesByChance(t *testing.T) {
 	}
 }
 
-// odd: numbers of which some are right by chance.
-func odd(chance *rand.Rand, around int) int {
-	return []int{around - 1, around + 1, -1, 0, 1, chance.Intn(30), math.MaxInt, math.MinInt}[chance.Intn(8)]
-}
-
-// spoil changes something of a state.
-func spoil(chance *rand.Rand, s *api.State) {
-	switch chance.Intn(9) {
-	case 0:
-		s.Today = odd(chance, s.Today)
-	case 1:
-		s.Steps = odd(chance, s.Steps)
-	case 2:
-		s.Fault = api.Fault(odd(chance, 3))
-	case 3:
-		s.Day = odd(chance, s.Day)
-	case 4:
-		s.Fault, s.Day = api.Fault(1+chance.Intn(4)), odd(chance, s.Today)
-	case 5:
-		s.Cells = changed(chance, s.Cells, 5)
-	case 6:
-		s.Past = changed(chance, s.Past, nil)
-	case 7:
-		for n := range s.Past {
-			s.Past[n] = changed(chance, s.Past[n], api.Cell{Has: chance.Intn(2) == 0, V: chance.Intn(2)})
-		}
-	case 8:
-		for n := range s.Cells {
-			s.Cells[n] = chance.Intn(2)
-		}
-	}
-}
-
-// changed: a list with something more, or less, or in another's place.
-func changed[T any](chance *rand.Rand, list []T, x T) []T {
-	at := chance.Intn(len(list) + 1)
-	switch chance.Intn(3) {
-	case 0:
-		return slices.Insert(slices.Clone(list), at, x)
-	case 1:
-		return slices.Delete(slices.Clone(list), max(0, at-1), at)
-	}
-	list = slices.Clone(list)
-	if at < len(list) {
-		list[at] = x
-	}
-	return list
-}
-
 // P1502: states with something changed are taken just if they are states of the program.
 func TestSpoiltStates(t *testing.T) {
 	t.Parallel()
@@ -197,9 +120,9 @@ func TestSpoiltStates(t *testing.T) {
 	told := map[bool]int{}
 	for range 20000 {
 		p := sample.Sound(chance.Intn)
-		s := stateOf(chance, p)
+		s := sample.State(chance.Intn, p)
 		for range 1 + chance.Intn(2) {
-			spoil(chance, &s)
+			sample.Spoil(chance.Intn, &s)
 		}
 		right := plainIsState(p, s)
 		told[right]++
@@ -220,7 +143,7 @@ func TestStatesOfOtherPrograms(t *testing.T) {
 	chance := rand.New(rand.NewSource(155))
 	for range 5000 {
 		p, q := sample.Sound(chance.Intn), sample.Sound(chance.Intn)
-		s := stateOf(chance, p)
+		s := sample.State(chance.Intn, p)
 		if plainIsState(q, s) {
 			wantResume(t, q, s, api.OK)
 		} else {

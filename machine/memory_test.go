@@ -136,9 +136,9 @@ func TestWhatIsHandedInStaysAsItIs(t *testing.T) {
 	chance := rand.New(rand.NewSource(158))
 	for turn := range 3000 {
 		p := roomyProgram(sample.Sound(chance.Intn))
-		s, rows := roomyState(stateOf(chance, p)), roomyRows(rowsFor(chance, p))
+		s, rows := roomyState(sample.State(chance.Intn, p)), roomyRows(rowsFor(chance, p))
 		if turn%4 == 0 {
-			spoil(chance, &s)
+			sample.Spoil(chance.Intn, &s)
 		}
 		if turn%7 == 0 {
 			p.Stack++
@@ -167,7 +167,7 @@ func TestNothingIsKept(t *testing.T) {
 	chance := rand.New(rand.NewSource(159))
 	for range 1500 {
 		p := sample.Sound(chance.Intn)
-		rows, s := rowsFor(chance, p), stateOf(chance, p)
+		rows, s := rowsFor(chance, p), sample.State(chance.Intn, p)
 		given, from := roomyProgram(p), roomyState(s)
 		fresh, kept := started(t, given), wantResume(t, given, from, api.OK)
 		scramble(reflect.ValueOf(given))
@@ -216,7 +216,7 @@ func TestMachinesOfOneProgram(t *testing.T) {
 		var machines []*machine.Machine
 		var plains []*plain
 		for range 4 {
-			s := stateOf(chance, p)
+			s := sample.State(chance.Intn, p)
 			machines, plains = append(machines, wantResume(t, p, s, api.OK)), append(plains, plainResume(p, s))
 		}
 		// One that goes on from where another is.

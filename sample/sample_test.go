@@ -8,6 +8,7 @@ import (
 	"payoff/check"
 	"payoff/image"
 	"payoff/legs"
+	"payoff/machine"
 	"payoff/sample"
 	"payoff/verify"
 )
@@ -78,9 +79,15 @@ func TestChanceThatIsNone(t *testing.T) {
 		if p := sample.Program(chance); image.Canon(p) != api.OK {
 			t.Errorf("Program: %+v", p)
 		}
-		if _, _, _, e := verify.Verify(sample.Sound(chance)); e != api.OK {
+		p := sample.Sound(chance)
+		if _, _, _, e := verify.Verify(p); e != api.OK {
 			t.Errorf("Sound: %d", e)
 		}
+		s := sample.State(chance, p)
+		if _, e := machine.Resume(p, s); e != api.OK {
+			t.Errorf("State: %d", e)
+		}
+		sample.Spoil(chance, &s)
 	}
 }
 
@@ -201,5 +208,53 @@ func TestSoundProgramsAreOfAllKinds(t *testing.T) {
 		if lists[n] < 50 || stacks[n] < 50 || backs[n] < 50 {
 			t.Errorf("programs of %d days: %d; with stacks so high: %d; that look so far back: %d", n, lists[n], stacks[n], backs[n])
 		}
+	}
+}
+
+func TestStatesAreOfAllKinds(t *testing.T) {
+	days, rows, faults, holes := map[int]int{}, map[int]int{}, map[api.Fault]int{}, map[bool]int{}
+	chance := rand.New(rand.NewSource(7))
+	for range 4000 {
+		p := sample.Sound(chance.Intn)
+		s := sample.State(chance.Intn, p)
+		if _, e := machine.Resume(p, s); e != api.OK {
+			t.Fatalf("%+v of %+v: %d", s, p, e)
+		}
+		days[s.Today]++
+		rows[len(s.Past)]++
+		faults[s.Fault]++
+		for _, row := range s.Past {
+			for _, c := range row {
+				holes[c.Has]++
+			}
+		}
+	}
+	for n := range 6 {
+		if days[n] < 50 || rows[n] < 50 {
+			t.Errorf("states ahead of day %d: %d; with %d rows: %d", n, days[n], n, rows[n])
+		}
+	}
+	for fault := range api.NoObs + 1 {
+		if faults[fault] < 50 {
+			t.Errorf("states with the fault %d: %d", fault, faults[fault])
+		}
+	}
+	if holes[true] < 100 || holes[false] < 50 {
+		t.Errorf("cells: %v", holes)
+	}
+}
+
+func TestSpoiltStatesAreOfBothKinds(t *testing.T) {
+	told := map[api.Errno]int{}
+	chance := rand.New(rand.NewSource(8))
+	for range 2000 {
+		p := sample.Sound(chance.Intn)
+		s := sample.State(chance.Intn, p)
+		sample.Spoil(chance.Intn, &s)
+		_, e := machine.Resume(p, s)
+		told[e]++
+	}
+	if told[api.OK] < 200 || told[api.ErrState] < 200 {
+		t.Errorf("%v", told)
 	}
 }
