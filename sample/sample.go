@@ -1,4 +1,4 @@
-// Package sample makes deals, actions, observations, programs and their states by chance, for the tests of the layers. (No layer calls it.)
+// Package sample makes deals, actions, observations, tables, programs and their states by chance, for the tests of the layers. (No layer calls it.)
 package sample
 
 import (

@@ -2,6 +2,7 @@ package sample_test
 
 import (
 	"math/rand"
+	"strings"
 	"testing"
 
 	"payoff/api"
@@ -10,6 +11,7 @@ import (
 	"payoff/legs"
 	"payoff/machine"
 	"payoff/sample"
+	"payoff/table"
 	"payoff/verify"
 )
 
@@ -88,6 +90,9 @@ func TestChanceThatIsNone(t *testing.T) {
 			t.Errorf("State: %d", e)
 		}
 		sample.Spoil(chance, &s)
+		if e := table.Valid(sample.Table(chance, []string{"A", "B"}, 3)); e != api.OK {
+			t.Errorf("Table: %d", e)
+		}
 	}
 }
 
@@ -256,5 +261,47 @@ func TestSpoiltStatesAreOfBothKinds(t *testing.T) {
 	}
 	if told[api.OK] < 200 || told[api.ErrState] < 200 {
 		t.Errorf("%v", told)
+	}
+}
+
+func TestTablesAreOfAllKinds(t *testing.T) {
+	cells, orders := map[bool]int{}, map[string]int{}
+	chance := rand.New(rand.NewSource(9))
+	for range 2000 {
+		x := sample.Table(chance.Intn, []string{"A", "B"}, chance.Intn(5))
+		if e := table.Valid(x); e != api.OK {
+			t.Fatalf("%+v: %d", x, e)
+		}
+		orders[strings.Join(x.Names, " ")]++
+		for _, row := range x.Rows {
+			for _, cell := range row {
+				cells[cell.Has]++
+			}
+		}
+	}
+	for _, names := range []string{"", "A", "A B", "B A", "OTHER B A", "Z_9 A OTHER B"} {
+		if orders[names] < 5 {
+			t.Errorf("tables of the names %q: %d", names, orders[names])
+		}
+	}
+	if cells[true] < 1000 || cells[false] < 100 {
+		t.Errorf("cells: %v", cells)
+	}
+}
+
+// A table has no more names than it may, and those that are told once.
+func TestTablesOfManyNames(t *testing.T) {
+	names := []string{"OTHER"}
+	for len(names) < api.MaxNames {
+		names = append(names, "N"+strings.Repeat("X", len(names)%30)+strings.Repeat("Y", len(names)/30))
+	}
+	chance := rand.New(rand.NewSource(10))
+	for range 200 {
+		if e := table.Valid(sample.Table(chance.Intn, names, 2)); e != api.OK {
+			t.Fatalf("%d", e)
+		}
+	}
+	if x := sample.Table(func(n int) int { return n - 1 }, names, 2); len(x.Names) != api.MaxNames {
+		t.Errorf("%d names", len(x.Names))
 	}
 }
