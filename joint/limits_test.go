@@ -84,10 +84,9 @@ func idling(d, instructions int) api.Program {
 // wantSize holds Join over programs that are as great as can be, or too great; a bad one among them is told first.
 func wantSize(t *testing.T, what string, e api.Errno, ps ...api.Program) {
 	t.Helper()
-	if _, err := joint.Join(ps); err != e {
+	if _, err := holdJoin(t, ps...); err != e {
 		t.Errorf("%s: %d, want %d", what, err, e)
 	}
-	holdJoin(t, ps...)
 	wantJoin(t, api.Program{}, api.ErrArg, append(slices.Clone(ps[:len(ps)-1]), api.Program{Stack: 1})...)
 }
 
